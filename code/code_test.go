@@ -106,8 +106,10 @@ func TestTexts(t *testing.T) {
 			t.Errorf("P1.2: Text of %d bytes: %d", len(s), len(b))
 		}
 		for _, most := range []int{len(s), len(s) + 1, math.MaxInt} {
-			if got, k, e := code.Texts(b+"more", most); got != s || k != len(b) || e != api.OK {
-				t.Errorf("P1.3: Texts of %d bytes, at most %d: %d bytes, %d, %v", len(s), most, len(got), k, e)
+			for _, behind := range []string{"", "more"} {
+				if got, k, e := code.Texts(b+behind, most); got != s || k != len(b) || e != api.OK {
+					t.Errorf("P1.3: Texts of %d bytes, at most %d: %d bytes, %d, %v", len(s), most, len(got), k, e)
+				}
 			}
 		}
 		if len(s) == 0 {
@@ -153,8 +155,10 @@ func TestFixed(t *testing.T) {
 	}
 	for _, n := range l {
 		b := code.Fixed(n)
-		if got, e := code.Fix(b + "\xff"); len(b) != 4 || got != n || e != api.OK {
-			t.Errorf("P1.3: Fix(Fixed(%d)): %d, %v", n, got, e)
+		for _, behind := range []string{"", "\xff"} {
+			if got, e := code.Fix(b + behind); len(b) != 4 || got != n || e != api.OK {
+				t.Errorf("P1.3: Fix(Fixed(%d)): %d, %v", n, got, e)
+			}
 		}
 		for i := range 4 {
 			if got, e := code.Fix(b[:i]); got != 0 || e != api.ErrShort {

@@ -210,6 +210,15 @@ func TestCopy(t *testing.T) {
 	d.Append("a", "1")
 	d.Remove("b")
 	files(t, "P8.2: the copy stays", c, file("a", "ab", 2), file("b", "", 0), file("c", "", 0))
+	for range 9 { // wherever memory has room left
+		e := c.Copy()
+		c.Append("b", "c")
+		e.Append("b", "e")
+		if s, _ := c.Read("b"); strings.Contains(s, "e") {
+			t.Errorf("P8.2: the copies share memory: %q", s)
+		}
+	}
+	c.Cut("b", 0)
 	expect(t, "P8.2: the copy has as much room", c.Append("a", strings.Repeat("x", 19)), api.ErrFull)
 	expect(t, "P8.2: the copy has as much room", c.Append("a", strings.Repeat("x", 18)), 0)
 }

@@ -80,10 +80,15 @@ func TestParts(t *testing.T) {
 			t.Errorf("P17.1: row %d: %+v, not %+v", i, got, c.want)
 		}
 		for k := range got {
+			_ = append(got[k].Entries, api.Entry{Data: "changed"})
+		}
+		if !alike(got, c.want) {
+			t.Errorf("P17.1: row %d: two parts share memory", i)
+		}
+		for k := range got {
 			for m := range got[k].Entries {
 				got[k].Entries[m].Data = "changed"
 			}
-			_ = append(got[k].Entries, api.Entry{Data: "changed"})
 		}
 		if !slices.EqualFunc(groups, two(), group.Same) || !alike(forward.Parts(groups, c.l, 1), c.want) {
 			t.Errorf("P17.1: row %d: memory is shared", i)

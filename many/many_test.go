@@ -155,6 +155,8 @@ func TestDo(t *testing.T) {
 // P7.3: what is settled, and what stays as it is.
 func TestSettle(t *testing.T) {
 	forward := api.Part{Group: 1, Kind: api.KForward, Entries: run(1, 1, 1)}
+	spoilt := destroy(1)
+	spoilt.Index = 3
 	for i, c := range []struct{ l, want []api.Part }{
 		{nil, nil},
 		{parts(compact(1, 2, 0)), parts(compact(1, 2, 1))},
@@ -173,6 +175,7 @@ func TestSettle(t *testing.T) {
 		{parts(destroy(1), compact(1, 2, 0), add(1, 1, 3, 4), snap(1, 2, 4)), parts(destroy(1), compact(1, 2, 0), add(1, 1, 3, 4), compact(1, 2, 4))},
 		{parts(api.Part{}, hard(1000, 1), forward, compact(1, 1, 0), hard(1, 1), hard(1, 2)), parts(api.Part{}, hard(1000, 1), forward, compact(1, 1, 1), hard(1, 1), hard(1, 2))},
 		{parts(add(1, 9, 1, 1), compact(1, 5, 0)), parts(add(1, 9, 1, 1), compact(1, 5, 2))},
+		{parts(spoilt, compact(1, 2, 0)), parts(spoilt, compact(1, 2, 1))},
 	} {
 		m := begun(t)
 		if got := m.Settle(c.l); !alike(got, c.want) || !many.Same(m, begun(t)) {

@@ -42,6 +42,13 @@ func head(t int) api.Part {
 	return api.Part{Group: 1, Kind: api.KForward, Head: true, Hard: api.Hard{Term: t}}
 }
 
+// all: a mark, a hard state and an entry.
+func all(i, t int, at int) api.Part {
+	p := mark(i, t, entries(t, at)...)
+	p.Head, p.Hard = true, api.Hard{Term: 9}
+	return p
+}
+
 func at(n int) api.Place { return api.Place{Segment: n, At: 100 * n} }
 
 // does parts, the k-th of them at at(k), counted from 1.
@@ -89,6 +96,7 @@ func TestSpots(t *testing.T) {
 		{does(hard(1), head(4)), lies(-1, 2)},
 		{does(head(4)), lies(-1, 1)},
 		{does(mark(4, 2)), lies(0, 1)},
+		{does(add(1, 1, 2, 3), all(1, 1, 3)), lies(-1, 2, 0, 2, 2, 1, 3, 2)},
 		{does(snap(4, 2), mark(4, 2)), lies(0, 2)},
 		{does(snap(4, 2), mark(4, 3)), lies(0, 1)},
 		{does(snap(4, 2), mark(3, 2)), lies(0, 1)},
@@ -170,7 +178,7 @@ func TestAgainstModel(t *testing.T) {
 		where := map[int]api.Place{}
 		for k := range 40 {
 			i, term := 1+r.Intn(15), 1+r.Intn(2)
-			p := []api.Part{add(term, i), add(term, i, i+1, i+2), hard(term), compact(i, r.Intn(3)), snap(i, term), again(term, i, i+2, i+3), mark(i, term), mark(i, term, entries(term, i, i+1)...), head(term), mark(max(g.First-1, 1), max(g.Term, 1))}[r.Intn(10)]
+			p := []api.Part{add(term, i), add(term, i, i+1, i+2), hard(term), compact(i, r.Intn(3)), snap(i, term), again(term, i, i+2, i+3), mark(i, term), mark(i, term, entries(term, i, i+1)...), head(term), all(i, term, i+1), mark(max(g.First-1, 1), max(g.Term, 1))}[r.Intn(11)]
 			l.Do(p, at(k))
 			first := g.First
 			g = sparse.Do(g, p)

@@ -113,7 +113,7 @@ func tells(t *testing.T, what string, s *store.Store, m *many.Many) {
 // P24.1: beginning, and going on.
 func TestOpen(t *testing.T) {
 	d := disk.New(10000)
-	for _, name := range []string{head.Name(1), head.Name(5), "sheet.new", "other"} {
+	for _, name := range []string{head.Name(1), head.Name(2), head.Name(5), "sheet.new", "other"} {
 		d.Create(name)
 		d.Append(name, "x")
 	}
@@ -242,6 +242,44 @@ func TestForwardDrop(t *testing.T) {
 	}
 	if again := open(t, d, 0, 2); !ledger.Same(again.Ledger(), s.Ledger()) || again.Seq() != s.Seq() {
 		t.Errorf("P24.4: opened anew: %+v", again.Groups())
+	}
+}
+
+// P24.4: without power: what errs tells no number; where there is nothing to do, that comes first.
+func TestForwardPower(t *testing.T) {
+	d := disk.New(100000)
+	s := open(t, d, 0, 1)
+	d.Limit(0)
+	if n, e := s.Forward(); n != 0 || e != api.ErrNone {
+		t.Errorf("P24.4: Forward of one segment: %d, %v", n, e)
+	}
+	if id, e := s.Drop(); id != 0 || e != api.ErrNone {
+		t.Errorf("P24.4: Drop of one segment: %d, %v", id, e)
+	}
+	d.Crash(0)
+	for i := range 6 {
+		s.Write(parts(add(i, 1, 1, 2, 3, 4, 5), hard(i, 1), add(i, 1, 6, 7), hard(i, 2)))
+	}
+	for i := 0; len(s.Segments()) < 2; i++ {
+		s.Write(parts(hard(9, i)))
+	}
+	s.Sync()
+	for n := range 13 {
+		c := d.Copy()
+		s := open(t, c, 0, 1)
+		groups := s.Groups()
+		c.Limit(n)
+		k, e := s.Forward() // three records, a sync ahead of them and one behind
+		if n < 5 && (k != 0 || e != api.ErrPower) || n >= 5 && (k != 3 || e != 0) || !slices.EqualFunc(groups, s.Groups(), group.Same) {
+			t.Errorf("P24.4: power for %d steps: Forward: %d, %v", n, k, e)
+		}
+		if n < 5 {
+			continue
+		}
+		id, e := s.Drop() // a sync, the sheet in four steps, the file
+		if n < 11 && (id != 0 || e != api.ErrPower) || n >= 11 && (id != 1 || e != 0) || !slices.EqualFunc(groups, s.Groups(), group.Same) {
+			t.Errorf("P24.4: power for %d steps: Drop: %d, %v", n, id, e)
+		}
 	}
 }
 

@@ -209,6 +209,11 @@ func TestMaxSheet(t *testing.T) {
 	if at, e := w.Write(b); at.Segment != 201 || e != 0 {
 		t.Errorf("P22.2: behind Drop: %v, %v", at, e)
 	}
+	d = disk.Of(100000, []api.File{{Name: head.Name(99999998), B: head.Bytes(99999998) + "abc"}})
+	w, _ = writer.On(d, 0, []int{99999998})
+	if at, e := w.Write(strings.Repeat("x", most)); at != (api.Place{Segment: 99999999, At: 16}) || e != 0 {
+		t.Errorf("P22.2: the last number: %v, %v", at, e)
+	}
 	d = disk.Of(100000, []api.File{{Name: head.Name(99999999), B: head.Bytes(99999999) + "abc"}})
 	w, _ = writer.On(d, 0, []int{99999999})
 	before = d.All()
@@ -247,6 +252,32 @@ func TestNoRoom(t *testing.T) {
 		}
 	}
 	t.Error("P22.2: there was never room")
+}
+
+// P22.2: what is refused where no segment is to be begun.
+func TestRefused(t *testing.T) {
+	d := disk.New(60)
+	w := made(t, d, 0)
+	if at, e := w.Write(strings.Repeat("x", 39)); at != (api.Place{}) || e != api.ErrFull {
+		t.Errorf("P22.2: without room: %v, %v", at, e)
+	}
+	is(t, "P22.2: without room", w, d, 16, 1)
+	d.Limit(0)
+	if at, e := w.Write("x"); at != (api.Place{}) || e != api.ErrPower || w.Size() != 16 {
+		t.Errorf("P22.2: without power: %v, %v", at, e)
+	}
+	if e := w.Sync(); e != api.ErrPower {
+		t.Errorf("P22.2: Sync without power: %v", e)
+	}
+	d.Crash(0)
+	if at, e := w.Write(strings.Repeat("x", 38)); at != (api.Place{Segment: 1, At: 16}) || e != 0 {
+		t.Errorf("P22.2: with just room: %v, %v", at, e)
+	}
+	is(t, "P22.2: with just room", w, d, 54, 1)
+	d.Remove(head.Name(1))
+	if e := w.Sync(); e != api.ErrFile {
+		t.Errorf("P22.2: Sync without its file: %v", e)
+	}
 }
 
 // P22.3: the first one goes.
