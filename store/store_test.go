@@ -87,9 +87,9 @@ func tells(t *testing.T, what string, s *store.Store, m *many.Many) {
 		first, last, e := s.Bounds(id)
 		h, he := s.Hard(id)
 		if !ok {
-			_, te := s.Term(id, 1)
+			n, te := s.Term(id, 1)
 			l, le := s.Entries(id, 9, 1)
-			if e != api.ErrGroup || he != api.ErrGroup || te != api.ErrGroup || le != api.ErrGroup || first != 0 || last != 0 || h != (api.Hard{}) || len(l) != 0 {
+			if e != api.ErrGroup || he != api.ErrGroup || te != api.ErrGroup || le != api.ErrGroup || first != 0 || last != 0 || h != (api.Hard{}) || len(l) != 0 || n != 0 {
 				t.Fatalf("%s: group %d isn't there: %v, %v, %v, %v", what, id, e, he, te, le)
 			}
 			continue
@@ -279,6 +279,59 @@ func TestForwardPower(t *testing.T) {
 		id, e := s.Drop() // a sync, the sheet in four steps, the file
 		if n < 11 && (id != 0 || e != api.ErrPower) || n >= 11 && (id != 1 || e != 0) || !slices.EqualFunc(groups, s.Groups(), group.Same) {
 			t.Errorf("P24.4: power for %d steps: Drop: %d, %v", n, id, e)
+		}
+	}
+}
+
+// P24.4: without room: what was written stays, and changes no group.
+func TestForwardNoRoom(t *testing.T) {
+	d := disk.New(100000)
+	s := open(t, d, 0, 1)
+	for i := range 8 {
+		s.Write(parts(add(i, 1, 1, 2, 3, 4, 5), hard(i, 1), add(i, 1, 6, 7), hard(i, 2)))
+	}
+	for i := 0; len(s.Segments()) < 2; i++ {
+		s.Write(parts(hard(9, i)))
+	}
+	full, seqs := 0, map[int]int{}
+	for free := 0; free < 500; free += 10 {
+		c := disk.Of(d.Used()+free, d.All())
+		s := open(t, c, 0, 1)
+		groups, seq := s.Groups(), s.Seq()
+		n, e := s.Forward()
+		if e == api.ErrFull {
+			full++
+			seqs[s.Seq()-seq]++
+			if n != 0 {
+				t.Errorf("P24.4: %d free: %d beside %v", free, n, e)
+			}
+		} else if n != 4 || e != 0 || s.Seq() != seq+4 {
+			t.Errorf("P24.4: %d free: %d, %v", free, n, e)
+		}
+		again := open(t, c, 0, 1)
+		if !slices.EqualFunc(groups, s.Groups(), group.Same) || !ledger.Same(s.Ledger(), again.Ledger()) || again.Seq() != s.Seq() {
+			t.Errorf("P24.4: %d free: what was written: %d, %d", free, s.Seq(), again.Seq())
+		}
+	}
+	if len(seqs) != 4 || full == 50 {
+		t.Errorf("P24.4: %d times there was no room; so many records were written: %v", full, seqs)
+	}
+}
+
+// P24.4: one thing that lies there still is one too many.
+func TestDropOne(t *testing.T) {
+	for _, p := range []api.Part{hard(1, 0), hard(1, 5), add(1, 1, 1), snap(1, 1, 1)} {
+		s := open(t, disk.New(100000), 0, 1)
+		s.Write(parts(p))
+		for i := 0; len(s.Segments()) < 2; i++ {
+			s.Write(parts(hard(9, i)))
+		}
+		if id, e := s.Drop(); id != 0 || e != api.ErrForm || len(s.Segments()) != 2 {
+			t.Errorf("P24.4: Drop of one thing: %d, %v", id, e)
+		}
+		s.Write(parts(destroy(1)))
+		if id, e := s.Drop(); id != 1 || e != 0 {
+			t.Errorf("P24.4: Drop of nothing: %d, %v", id, e)
 		}
 	}
 }
