@@ -244,6 +244,42 @@ func TestReclaim(t *testing.T) {
 	}
 }
 
+// P40.3: where the power went off and is on again, one that is done leaves no file that isn't in the sheet, either.
+func TestReclaimAgain(t *testing.T) {
+	broken := 0
+	for n := range 80 {
+		for _, cut := range []string{"reclaim", "append 5 1 1 " + strings.Repeat("x", 40)} {
+			s := script.New(1000000, 2100)
+			for i := 0; len(s.Store().Segments()) < 4; i++ {
+				do(t, s, fmt.Sprintf("append 1 1 1 %d ; hard %d 1 1 1", i, i))
+			}
+			do(t, s, fmt.Sprint("limit ", n))
+			for range 60 { // until a segment is to be begun
+				if do(t, s, cut) == "error 18" {
+					broken++
+					break
+				}
+			}
+			do(t, s, "limit 999999999")
+			groups := do(t, s, "groups")
+			if got := do(t, s, "reclaim"); !strings.HasPrefix(got, "ok ") {
+				t.Fatalf("P40.3: power for %d steps, %q, then: %s", n, cut, got)
+			}
+			for _, f := range s.Disk().All() {
+				if id, ok := head.ID(f.Name); ok && !slices.Contains(s.Store().Segments(), id) {
+					t.Errorf("P40.3: power for %d steps, %q: %s is left", n, cut, f.Name)
+				}
+			}
+			if groups != do(t, s, "groups") || !audit.Store(s.Store(), s.Disk()) {
+				t.Errorf("P40.3: power for %d steps, %q: it doesn't hold", n, cut)
+			}
+		}
+	}
+	if broken < 30 {
+		t.Errorf("P40.3: %d were broken off", broken)
+	}
+}
+
 // P40.4: however many shards replay a disk, in whatever order of steps.
 func TestShards(t *testing.T) {
 	r := rand.New(rand.NewSource(4))

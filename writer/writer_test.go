@@ -316,11 +316,33 @@ func TestDrop(t *testing.T) {
 			t.Errorf("P22.3: power for %d steps: its file: %v", n, e)
 		}
 	}
+	c := d.Copy()
+	v, _ := writer.On(c, 0, []int{2, 3})
+	c.Limit(4)
+	v.Drop()
+	if e := v.Sync(); e != api.ErrPower {
+		t.Error(e)
+	}
+	c.Limit(100) // the power is on again: what was left goes with the next one
+	v.Write(strings.Repeat("x", most))
+	c.Create(head.Name(7))
+	c.Create("other")
+	if id, e := v.Drop(); id != 3 || e != 0 || !slices.Equal(names(c), []string{"other", "seg-00000004", "sheet"}) {
+		t.Errorf("P22.3: what was left: %d, %v, %v", id, e, names(c))
+	}
 	w, _ = writer.On(d, 0, []int{2, 3})
 	d.Remove(head.Name(2))
 	if id, e := w.Drop(); id != 0 || e != api.ErrFile || !slices.Equal(w.Segments(), []int{3}) {
 		t.Errorf("P22.3: where its file isn't: %d, %v, %v", id, e, w.Segments())
 	}
+}
+
+func names(d *disk.Disk) []string {
+	var l []string
+	for _, f := range d.All() {
+		l = append(l, f.Name)
+	}
+	return l
 }
 
 // P22.2, P22.4: at whatever step the power goes off, the sheet tells segments that are there with their heads.
